@@ -321,7 +321,7 @@ func TestAppended(t *testing.T) { // P5.8
 	}
 }
 
-func TestTurnedBits(t *testing.T) { // P5.9
+func TestTurnedBits(t *testing.T) { // P5.9: a byte's bits from the lowest on, as the check sum takes them
 	r := rand.New(rand.NewSource(9))
 	recs := []string{"a record", "another one of some bytes", text(2000), "last"}
 	all, ends := laid(t, recs...)
