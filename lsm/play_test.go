@@ -316,44 +316,51 @@ func TestCrashesInOpen(t *testing.T) { // P13.9: behind a crash in the script a 
 
 func TestCrashPlays(t *testing.T) { // P13.9, P13.10: life behind life, with faults, stops, crashes as they come
 	r := rand.New(rand.NewSource(4))
-	for range 400 {
+	for range 500 {
 		f := newDisk(t, 1<<20)
 		x := result{}
-		for life := range 6 {
-			x = playLife(t, r, f, x)
-			pending := f.Pending()
+		for range 6 {
+			if r.Intn(2) == 0 {
+				f.Stop(r.Intn(120))
+			}
+			for range 1 + r.Intn(3) { // openings without a crash between
+				x = playLife(t, r, f, x)
+			}
 			keep := make([]int, len(f.List())+40)
 			for i := range keep {
 				keep[i] = r.Intn(3) * r.Intn(120)
 			}
-			want(t, "Crash", f.Crash(api.Crash{Dir: r.Intn(pending + 1), Keep: keep}), api.OK)
-			d := mustOpen(t, f.Fork(), small())
-			seq := int(d.Info().Seq)
-			want(t, "none is lost", seq >= x.told, true)
-			want(t, "none is more", seq <= x.begun, true)
-			want(t, fmt.Sprint("behind life ", life), now(d), x.m.text("", "", uint64(seq)))
-			if t.Failed() {
-				t.FailNow()
-			}
-			x = result{m: x.m[:seq], told: seq, begun: seq}
+			want(t, "Crash", f.Crash(api.Crash{Dir: r.Intn(f.Pending() + 1), Keep: keep}), api.OK)
+			x = found(t, mustOpen(t, f.Fork(), small()), x)
 		}
 	}
+}
+
+// found is that an engine has what was there behind some of the batches, in order: what can be found from now on is just that.
+func found(t *testing.T, d *lsm.DB, x result) result {
+	t.Helper()
+	seq := int(d.Info().Seq)
+	want(t, "none is lost that was told", seq >= x.told, true)
+	want(t, "none is more than had begun", seq <= x.begun, true)
+	want(t, "what is found", now(d), x.m.text("", "", uint64(seq)))
+	if t.Failed() {
+		t.FailNow()
+	}
+	return result{m: x.m[:seq], told: seq, begun: seq}
 }
 
 // playLife opens an engine, and does something, till the power is gone, something fails, or it is enough.
 func playLife(t *testing.T, r *rand.Rand, f *vfs.FS, x result) result {
 	t.Helper()
-	if r.Intn(2) == 0 {
-		f.Stop(r.Intn(80))
-	}
-	if r.Intn(2) == 0 {
+	f.Fail(nil)
+	for range r.Intn(3) {
 		f.Fail([]api.Fault{{Op: 1 + r.Intn(7), Nth: 1 + r.Intn(12), Kind: 1 + r.Intn(2)}})
 	}
 	d, e := lsm.Open(f, options(r))
 	if e != api.OK || f.Off() {
 		return x
 	}
-	x.told = len(x.m) // found, and kept from now on
+	x = found(t, d, x)
 	for range r.Intn(60) {
 		switch r.Intn(6) {
 		case 0:
@@ -364,9 +371,10 @@ func playLife(t *testing.T, r *rand.Rand, f *vfs.FS, x result) result {
 			e = d.Freeze()
 		default:
 			l := draw(r)
-			x.m = x.m.with(l)
-			x.begun = len(x.m)
-			_, e = d.Write(l)
+			if _, e = d.Write(l); e != api.ErrFull {
+				x.m = x.m.with(l)
+				x.begun = len(x.m)
+			}
 			if e == api.OK && !f.Off() {
 				x.told = len(x.m)
 			}
@@ -379,6 +387,48 @@ func playLife(t *testing.T, r *rand.Rand, f *vfs.FS, x result) result {
 		}
 	}
 	return x
+}
+
+// moved is the files on a disk with room.
+func moved(t *testing.T, f *vfs.FS) *vfs.FS {
+	t.Helper()
+	g := newDisk(t, api.MaxDisk)
+	for _, x := range f.Files() {
+		lay(t, g, x.Name, x.Bytes)
+	}
+	return g
+}
+
+func TestCrashPlaysTight(t *testing.T) { // P13.2, P13.9: on disks with little room: what is not opened there is opened on a larger one
+	r := rand.New(rand.NewSource(6))
+	opened, refused := 0, 0
+	for range 400 {
+		f := newDisk(t, 300+r.Intn(3000))
+		x := result{}
+		for range 8 {
+			if r.Intn(2) == 0 {
+				f.Stop(r.Intn(60))
+			}
+			for range 1 + r.Intn(2) {
+				x = playLife(t, r, f, x)
+			}
+			keep := make([]int, len(f.List())+40)
+			for i := range keep {
+				keep[i] = r.Intn(3) * r.Intn(120)
+			}
+			want(t, "Crash", f.Crash(api.Crash{Dir: r.Intn(f.Pending() + 1), Keep: keep}), api.OK)
+			x = found(t, mustOpen(t, moved(t, f), small()), x)
+			d, e := lsm.Open(f.Fork(), small())
+			if e == api.OK {
+				found(t, d, x)
+				opened++
+			} else {
+				want(t, "Open", e, api.ErrFull)
+				refused++
+			}
+		}
+	}
+	want(t, "some were opened, some refused", opened > 500 && refused > 100, true)
 }
 
 func TestFullDisk(t *testing.T) { // P13.3, P13.6, P13.8: on disks that become full nothing is lost, and all is read
